@@ -1,0 +1,81 @@
+// Package silt: files kept as pieces: see DOC.md.
+package silt
+
+import (
+	"silt/api"
+	"silt/cut"
+	"silt/digest"
+	"silt/entries"
+)
+
+// Digest is SHA-256 (P3).
+func Digest(b []byte) [32]byte { return digest.Sum(b) }
+
+// Cuts tells the lengths of a text's chunks (P3).
+func Cuts(text []byte) []int { return cut.Lengths(text) }
+
+// Cutter cuts a text that comes piece by piece.
+type Cutter struct {
+	text cut.Cutter
+}
+
+// NewCutter begins a text (P3).
+func NewCutter() *Cutter { return &Cutter{} }
+
+// Write takes a piece (P3). A nil cutter has no text, and must not panic (P1).
+func (c *Cutter) Write(b []byte) []int {
+	if c == nil {
+		return nil
+	}
+	return c.text.Write(b)
+}
+
+// Close ends the text (P3).
+func (c *Cutter) Close() []int {
+	if c == nil {
+		return nil
+	}
+	return c.text.Close()
+}
+
+// Stream writes a tree (P4).
+func Stream(tree []api.Entry) ([]byte, error) { return entries.Write(tree) }
+
+// Tree reads a stream (P4).
+func Tree(stream []byte) ([]api.Entry, error) { return entries.Read(stream) }
+
+// Store keeps objects under their digests.
+type Store struct{}
+
+// New makes an empty store (P5).
+func New(limit int) *Store { return nil }
+
+// Put lays an object by (P5).
+func (s *Store) Put(object []byte) ([32]byte, error) { return [32]byte{}, nil }
+
+// Get tells an object (P5).
+func (s *Store) Get(d [32]byte) ([]byte, error) { return nil, nil }
+
+// Remove takes an object away (P5).
+func (s *Store) Remove(d [32]byte) bool { return false }
+
+// Spoil turns a byte (P5).
+func (s *Store) Spoil(d [32]byte, at int, with byte) bool { return false }
+
+// Count tells how many objects and bytes there are (P5).
+func (s *Store) Count() (int, int) { return 0, 0 }
+
+// Save keeps a tree (P6).
+func (s *Store) Save(tree []api.Entry) ([32]byte, error) { return [32]byte{}, nil }
+
+// Load tells a tree (P7).
+func (s *Store) Load(root [32]byte) ([]api.Entry, error) { return nil, nil }
+
+// Read tells some bytes of a text (P7).
+func (s *Store) Read(root [32]byte, from int, n int) ([]byte, error) { return nil, nil }
+
+// Extract tells the entries at a path and below it (P8).
+func (s *Store) Extract(root [32]byte, path string) ([]api.Entry, error) { return nil, nil }
+
+// Sweep takes away what no root needs (P9).
+func (s *Store) Sweep(roots [][32]byte) (int, error) { return 0, nil }
