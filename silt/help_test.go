@@ -26,6 +26,21 @@ func wantFault(t *testing.T, what string, err error, code int) {
 	}
 }
 
+// wantLoss: err is a fault of this code that speaks of the object under d, and is told as a loss.
+func wantLoss(t *testing.T, what string, err error, code int, d [32]byte) {
+	t.Helper()
+	f, ok := err.(*api.Fault)
+	if !ok || f == nil {
+		t.Fatalf("%s: the error is %v, want a fault of the code %d", what, err, code)
+	}
+	if f.Code != code || f.Digest != d {
+		t.Fatalf("%s: code %d of %x, want code %d of %x", what, f.Code, f.Digest, code, d)
+	}
+	if !errors.Is(err, api.Lost) {
+		t.Fatalf("%s: the fault is not told as a loss", what)
+	}
+}
+
 func wantNoError(t *testing.T, what string, err error) {
 	t.Helper()
 	if err != nil {

@@ -2,10 +2,13 @@
 package silt
 
 import (
+	"sync"
+
 	"silt/api"
 	"silt/cut"
 	"silt/digest"
 	"silt/entries"
+	"silt/objects"
 )
 
 // Digest is SHA-256 (P3).
@@ -44,26 +47,49 @@ func Stream(tree []api.Entry) ([]byte, error) { return entries.Write(tree) }
 // Tree reads a stream (P4).
 func Tree(stream []byte) ([]api.Entry, error) { return entries.Read(stream) }
 
-// Store keeps objects under their digests.
-type Store struct{}
+// Store keeps objects under their digests. Each call holds the guard from its first look to its last, so that calls are done one behind the other (P2).
+type Store struct {
+	guard sync.Mutex
+	shelf *objects.Shelf
+}
 
 // New makes an empty store (P5).
-func New(limit int) *Store { return nil }
+func New(limit int) *Store { return &Store{shelf: objects.New(limit)} }
 
 // Put lays an object by (P5).
-func (s *Store) Put(object []byte) ([32]byte, error) { return [32]byte{}, nil }
+func (s *Store) Put(object []byte) ([32]byte, error) {
+	s.guard.Lock()
+	defer s.guard.Unlock()
+	return s.shelf.Put(object)
+}
 
 // Get tells an object (P5).
-func (s *Store) Get(d [32]byte) ([]byte, error) { return nil, nil }
+func (s *Store) Get(d [32]byte) ([]byte, error) {
+	s.guard.Lock()
+	defer s.guard.Unlock()
+	return s.shelf.Get(d)
+}
 
 // Remove takes an object away (P5).
-func (s *Store) Remove(d [32]byte) bool { return false }
+func (s *Store) Remove(d [32]byte) bool {
+	s.guard.Lock()
+	defer s.guard.Unlock()
+	return s.shelf.Remove(d)
+}
 
 // Spoil turns a byte (P5).
-func (s *Store) Spoil(d [32]byte, at int, with byte) bool { return false }
+func (s *Store) Spoil(d [32]byte, at int, with byte) bool {
+	s.guard.Lock()
+	defer s.guard.Unlock()
+	return s.shelf.Spoil(d, at, with)
+}
 
 // Count tells how many objects and bytes there are (P5).
-func (s *Store) Count() (int, int) { return 0, 0 }
+func (s *Store) Count() (int, int) {
+	s.guard.Lock()
+	defer s.guard.Unlock()
+	return s.shelf.Count()
+}
 
 // Save keeps a tree (P6).
 func (s *Store) Save(tree []api.Entry) ([32]byte, error) { return [32]byte{}, nil }
