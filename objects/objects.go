@@ -25,19 +25,13 @@ func (s *Shelf) Put(object []byte) ([32]byte, error) {
 	if len(object) > api.MaxObject {
 		return [32]byte{}, &api.Fault{Code: api.ErrLong}
 	}
-	d := digest.Sum(object)
-	old, there := s.kept[d]
-	if !there && !s.fits(len(object)) {
-		return [32]byte{}, &api.Fault{Code: api.ErrFull}
+	one := Batch{}
+	d := one.Add(bytes.Clone(object))
+	if err := s.PutAll(one); err != nil {
+		return [32]byte{}, err
 	}
-	// What is there already may be spoilt: it is replaced, not left.
-	s.kept[d] = bytes.Clone(object)
-	s.size += len(object) - len(old)
 	return d, nil
 }
-
-// fits asks what is left, not what would be there: the size is 0 or at most the limit, so that no limit makes this wrap round.
-func (s *Shelf) fits(more int) bool { return more <= s.limit-s.size }
 
 // Get tells a copy of the object under d.
 func (s *Shelf) Get(d [32]byte) ([]byte, error) {

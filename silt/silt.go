@@ -2,6 +2,7 @@
 package silt
 
 import (
+	"errors"
 	"sync"
 
 	"silt/api"
@@ -9,6 +10,8 @@ import (
 	"silt/digest"
 	"silt/entries"
 	"silt/objects"
+	"silt/pieces"
+	"silt/walk"
 )
 
 // Digest is SHA-256 (P3).
@@ -92,13 +95,53 @@ func (s *Store) Count() (int, int) {
 }
 
 // Save keeps a tree (P6).
-func (s *Store) Save(tree []api.Entry) ([32]byte, error) { return [32]byte{}, nil }
+func (s *Store) Save(tree []api.Entry) ([32]byte, error) {
+	text, err := entries.Write(tree)
+	if err != nil {
+		return [32]byte{}, err
+	}
+	all := objects.Batch{}
+	root := pieces.Root(text, all.Add)
+	s.guard.Lock()
+	defer s.guard.Unlock()
+	if err := s.shelf.PutAll(all); err != nil {
+		return [32]byte{}, err
+	}
+	return root, nil
+}
 
 // Load tells a tree (P7).
-func (s *Store) Load(root [32]byte) ([]api.Entry, error) { return nil, nil }
+func (s *Store) Load(root [32]byte) ([]api.Entry, error) {
+	s.guard.Lock()
+	defer s.guard.Unlock()
+	text, err := walk.All(s.shelf, root)
+	if err != nil {
+		return nil, plain(err)
+	}
+	tree, err := entries.Read(text)
+	// Other lists may make the text of a tree, too; but a tree has only one root.
+	if err != nil || pieces.Root(text, digest.Sum) != root {
+		return nil, &api.Fault{Code: api.ErrStream, Digest: root}
+	}
+	return tree, nil
+}
 
 // Read tells some bytes of a text (P7).
-func (s *Store) Read(root [32]byte, from int, n int) ([]byte, error) { return nil, nil }
+func (s *Store) Read(root [32]byte, from int, n int) ([]byte, error) {
+	s.guard.Lock()
+	defer s.guard.Unlock()
+	b, err := walk.Some(s.shelf, root, from, n)
+	return b, plain(err)
+}
+
+// plain finds the fault in what was wrapped on its way up: a call answers nothing else.
+func plain(err error) error {
+	var fault *api.Fault
+	if errors.As(err, &fault) {
+		return fault
+	}
+	return err
+}
 
 // Extract tells the entries at a path and below it (P8).
 func (s *Store) Extract(root [32]byte, path string) ([]api.Entry, error) { return nil, nil }
