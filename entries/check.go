@@ -37,14 +37,22 @@ func hasParent(last api.Entry, path string) bool {
 		return true
 	}
 	parent := path[:at]
-	return last.Path == parent && last.Kind == api.Dir || strings.HasPrefix(last.Path, parent+separator)
+	return last.Path == parent && last.Kind == api.Dir || isBelow(last.Path, parent)
 }
 
-func isEntry(e api.Entry) bool {
-	return isPath(e.Path) && within(e.Mode, 0, api.MaxMode) && within(e.Time, 0, api.MaxTime) && areNotes(e.Notes) && isContent(e.Kind, len(e.Content))
+func isBelow(path, parent string) bool { return strings.HasPrefix(path, parent+separator) }
+
+func isAtOrBelow(path, parent string) bool { return path == parent || isBelow(path, parent) }
+
+func isEntry(e api.Entry) bool { return isHead(e, len(e.Content)) }
+
+// isHead asks all of an entry but its content, of which only the length is known.
+func isHead(e api.Entry, length int) bool {
+	return IsPath(e.Path) && within(e.Mode, 0, api.MaxMode) && within(e.Time, 0, api.MaxTime) && areNotes(e.Notes) && isContent(e.Kind, length)
 }
 
-func isPath(path string) bool {
+// IsPath tells whether an entry may have this path.
+func IsPath(path string) bool {
 	if len(path) > api.MaxPath {
 		return false
 	}

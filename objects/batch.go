@@ -1,6 +1,8 @@
 package objects
 
 import (
+	"errors"
+
 	"silt/api"
 	"silt/digest"
 )
@@ -21,9 +23,11 @@ func (s *Shelf) PutAll(b Batch) error {
 		return &api.Fault{Code: api.ErrFull}
 	}
 	for d, object := range b {
-		// What is there already may be spoilt: it is replaced, not left.
-		s.size += len(object) - len(s.kept[d])
-		s.kept[d] = object
+		// What is spoilt counts as lost, too: it is replaced, and only what is whole is left.
+		if errors.Is(s.check(d), api.Lost) {
+			s.size += len(object) - len(s.kept[d])
+			s.kept[d] = object
+		}
 	}
 	return nil
 }

@@ -35,14 +35,22 @@ func (s *Shelf) Put(object []byte) ([32]byte, error) {
 
 // Get tells a copy of the object under d.
 func (s *Shelf) Get(d [32]byte) ([]byte, error) {
+	if err := s.check(d); err != nil {
+		return nil, err
+	}
+	return bytes.Clone(s.kept[d]), nil
+}
+
+// check tells what is wrong with what is under d.
+func (s *Shelf) check(d [32]byte) error {
 	object, there := s.kept[d]
 	if !there {
-		return nil, &api.Fault{Code: api.ErrMissing, Digest: d}
+		return &api.Fault{Code: api.ErrMissing, Digest: d}
 	}
 	if digest.Sum(object) != d {
-		return nil, &api.Fault{Code: api.ErrBroken, Digest: d}
+		return &api.Fault{Code: api.ErrBroken, Digest: d}
 	}
-	return bytes.Clone(object), nil
+	return nil
 }
 
 // Remove tells whether there was something under d, which is gone now.
@@ -51,6 +59,18 @@ func (s *Shelf) Remove(d [32]byte) bool {
 	delete(s.kept, d)
 	s.size -= len(object)
 	return there
+}
+
+// Keep removes all objects that are not under one of these digests, and tells how many these were.
+func (s *Shelf) Keep(needed map[[32]byte]struct{}) int {
+	gone := 0
+	for d := range s.kept {
+		if _, stays := needed[d]; !stays {
+			s.Remove(d)
+			gone++
+		}
+	}
+	return gone
 }
 
 // Spoil changes one byte of what is under d, if it has this place.

@@ -134,6 +134,35 @@ func (s *Store) Read(root [32]byte, from int, n int) ([]byte, error) {
 	return b, plain(err)
 }
 
+// Extract tells the entries at a path and below it (P8).
+func (s *Store) Extract(root [32]byte, path string) ([]api.Entry, error) {
+	if !entries.IsPath(path) {
+		return nil, &api.Fault{Code: api.ErrEntry}
+	}
+	s.guard.Lock()
+	defer s.guard.Unlock()
+	text, err := walk.Open(s.shelf, root)
+	if err != nil {
+		return nil, plain(err)
+	}
+	found, err := entries.Extract(text, path)
+	if err != nil {
+		return nil, ofRoot(root, err)
+	}
+	return found, nil
+}
+
+// Sweep takes away what no root needs (P9).
+func (s *Store) Sweep(roots [][32]byte) (int, error) {
+	s.guard.Lock()
+	defer s.guard.Unlock()
+	needed, err := walk.Needs(s.shelf, roots)
+	if err != nil {
+		return 0, plain(err)
+	}
+	return s.shelf.Keep(needed), nil
+}
+
 // plain finds the fault in what was wrapped on its way up: a call answers nothing else.
 func plain(err error) error {
 	var fault *api.Fault
@@ -143,8 +172,11 @@ func plain(err error) error {
 	return err
 }
 
-// Extract tells the entries at a path and below it (P8).
-func (s *Store) Extract(root [32]byte, path string) ([]api.Entry, error) { return nil, nil }
-
-// Sweep takes away what no root needs (P9).
-func (s *Store) Sweep(roots [][32]byte) (int, error) { return 0, nil }
+// ofRoot tells of the root that its text is no stream of a tree: who reads entries knows no root. Other faults speak for themselves.
+func ofRoot(root [32]byte, err error) error {
+	var fault *api.Fault
+	if errors.As(err, &fault) && fault.Code == api.ErrStream {
+		return &api.Fault{Code: api.ErrStream, Digest: root}
+	}
+	return plain(err)
+}

@@ -5,6 +5,7 @@ import (
 	"crypto/sha256"
 	"errors"
 	"fmt"
+	"slices"
 	"testing"
 
 	"silt/api"
@@ -151,5 +152,90 @@ func TestP7OnlyWhatIsNeededIsGot(t *testing.T) {
 	s.asked = nil
 	if _, err := walk.Some(s, top, -1, 0); err == nil || len(s.asked) > 0 {
 		t.Errorf("a place below 0: %v, and %d objects were got", err, len(s.asked))
+	}
+}
+
+// wantAsked: these objects were got since the last look, in this order.
+func (s *source) wantAsked(t *testing.T, what string, want ...[32]byte) {
+	t.Helper()
+	if !slices.Equal(s.asked, want) {
+		t.Fatalf("%s: got %d objects %x, want %d: %x", what, len(s.asked), s.asked, len(want), want)
+	}
+	s.asked = nil
+}
+
+// TestP8AByteLeadsToItsPiece: nothing else is got, and nothing where the piece was just read.
+func TestP8AByteLeadsToItsPiece(t *testing.T) {
+	s := &source{has: map[[32]byte][]byte{}}
+	lost := sha256.Sum256([]byte("lost"))
+	a, b := s.put(0, 'a', 'b', 'c'), s.put(0, 'd', 'e', 'f')
+	one, two, three := s.list(1, 3, a, b), s.list(1, 3, lost, a), s.list(1, 3, b, b)
+	top := s.list(2, 6, one, two, three)
+	text, err := walk.Open(s, top)
+	if err != nil || text.Length() != 18 {
+		t.Fatalf("Open: %v", err)
+	}
+	s.wantAsked(t, "Open", top)
+	byteAt := func(at int, want byte) {
+		t.Helper()
+		if x, err := text.Byte(at); err != nil || x != want {
+			t.Fatalf("byte %d is %q, %v, want %q", at, x, err, want)
+		}
+	}
+	byteAt(1, 'b')
+	s.wantAsked(t, "the first byte", one, a)
+	byteAt(2, 'c')
+	byteAt(0, 'a')
+	byteAt(2, 'c')
+	s.wantAsked(t, "bytes of the same piece")
+	byteAt(3, 'd')
+	s.wantAsked(t, "the next piece", one, b)
+	if x, err := text.Byte(7); x != 0 || err == nil {
+		t.Fatalf("a byte that is lost: %q, %v", x, err)
+	} else {
+		wantWay(t, err, api.ErrMissing, lost, [][32]byte{top, two}, []int{1, 0})
+	}
+	s.wantAsked(t, "a piece that is lost", two, lost)
+	byteAt(5, 'f')
+	s.wantAsked(t, "the piece ahead of it")
+	byteAt(9, 'a')
+	byteAt(17, 'f')
+	s.wantAsked(t, "pieces behind it", two, a, three, b)
+	byteAt(0, 'a')
+	s.wantAsked(t, "back to the first piece", one, a)
+	_, err = walk.Open(s, lost)
+	wantWay(t, err, api.ErrMissing, lost, nil, nil)
+	_, err = walk.Open(s, a)
+	wantWay(t, err, api.ErrForm, a, nil, nil)
+}
+
+// TestP9OnlyListsAreGot, and what goes wrong is wrapped as elsewhere.
+func TestP9OnlyListsAreGot(t *testing.T) {
+	s := &source{has: map[[32]byte][]byte{}}
+	a, b := s.put(0, 'a', 'b', 'c'), sha256.Sum256([]byte("lost"))
+	one, two := s.list(1, 3, a, b), s.list(1, 3, b, b)
+	high := s.list(2, 6, one, two)
+	top := s.list(3, 12, high, high)
+	needs, err := walk.Needs(s, [][32]byte{top, one})
+	if err != nil {
+		t.Fatal(err)
+	}
+	s.wantAsked(t, "Needs", top, high, one, two, high, one)
+	for _, d := range [][32]byte{a, b, one, two, high, top} {
+		if _, needed := needs[d]; !needed {
+			t.Errorf("%x is not needed", d)
+		}
+	}
+	if len(needs) != 6 {
+		t.Errorf("%d objects are needed, want 6", len(needs))
+	}
+	wrong := s.list(2, 5, one)
+	_, err = walk.Needs(s, [][32]byte{top, s.list(3, 5, wrong, wrong)})
+	wantWay(t, err, api.ErrForm, one, [][32]byte{s.list(3, 5, wrong, wrong), wrong}, []int{0, 0})
+	far := s.list(2, 6, one, b)
+	_, err = walk.Needs(s, [][32]byte{far, top})
+	wantWay(t, err, api.ErrMissing, b, [][32]byte{far}, []int{1})
+	if needs, err = walk.Needs(s, nil); err != nil || len(needs) != 0 {
+		t.Errorf("no roots need %d objects, %v", len(needs), err)
 	}
 }
